@@ -35,8 +35,8 @@ func defined(a, b byte) byte {
 	return byte(product)
 }
 
-// inverse returns the inverse of a byte by the definition.
-func inverse(a byte) byte {
+// definedInverse returns the inverse of a byte by the definition.
+func definedInverse(a byte) byte {
 	for b := range 256 {
 		if defined(a, byte(b)) == 1 {
 			return byte(b)
@@ -47,7 +47,7 @@ func inverse(a byte) byte {
 
 // substitution returns that of a byte by the definition.
 func substitution(a byte) (s byte) {
-	b := inverse(a)
+	b := definedInverse(a)
 	bit := func(x byte, i int) byte { return x >> (i % 8) & 1 }
 	for i := range 8 {
 		s |= (bit(b, i) ^ bit(b, i+4) ^ bit(b, i+5) ^ bit(b, i+6) ^ bit(b, i+7) ^ bit(99, i)) << i
@@ -142,7 +142,7 @@ func TestMulOfLarge(t *testing.T) {
 // P6.1: powers of all bytes, with the numbers around 0 and their negatives.
 func TestPower(t *testing.T) {
 	for a := range 256 {
-		up, down, other := byte(1), byte(1), inverse(byte(a))
+		up, down, other := byte(1), byte(1), definedInverse(byte(a))
 		for n := range 600 {
 			if got := Power(byte(a), n); got != up {
 				t.Fatalf("%#x %d: %#x", a, n, got)
@@ -171,7 +171,7 @@ func TestPowerOfZero(t *testing.T) {
 func TestPowerOfGreatNumbers(t *testing.T) {
 	const most = 1 << 20
 	for _, a := range []byte{0, 1, 2, 3, 0x53, 0x80, 0xff} {
-		up, down, other := byte(1), byte(1), inverse(a)
+		up, down, other := byte(1), byte(1), definedInverse(a)
 		for n := range most + 1 {
 			if n > most-600 || n%1009 == 0 {
 				if Power(a, n) != up || Power(a, -n) != down {
@@ -196,7 +196,7 @@ func TestAnyNumber(t *testing.T) {
 func TestInverse(t *testing.T) {
 	for a := range 256 {
 		got := Inverse(byte(a))
-		if got != inverse(byte(a)) {
+		if got != definedInverse(byte(a)) {
 			t.Errorf("%#x: %#x", a, got)
 		}
 		if Inverse(got) != byte(a) || a > 0 && Mul(byte(a), got) != 1 {
@@ -223,6 +223,45 @@ func TestSub(t *testing.T) {
 		}
 		if Unsub(Sub(byte(a))) != byte(a) || Sub(Unsub(byte(a))) != byte(a) {
 			t.Errorf("%#x: not inverted", a)
+		}
+	}
+}
+
+// P6.1: the tables hold the products of bytes 3, and their numbers, from the first Inverse on.
+func TestTables(t *testing.T) {
+	made, powers, logs = sync.Once{}, [order]byte{}, [256]byte{}
+	Inverse(1)
+	want := byte(1)
+	for k, p := range powers {
+		if p != want || int(logs[p]) != k {
+			t.Errorf("%d: %#x %d", k, p, logs[p])
+		}
+		want = defined(want, 3)
+	}
+}
+
+// P6.1 to P6.4: functions compute all results, so that these are right whatever the tables hold.
+func TestResultsWithoutTables(t *testing.T) {
+	defer func() { made = sync.Once{} }()
+	made.Do(func() {})
+	random := rand.New(rand.NewSource(1))
+	for i := range 20 {
+		powers, logs = [order]byte{}, [256]byte{}
+		if i > 0 {
+			random.Read(powers[:])
+			random.Read(logs[:])
+		}
+		for a := range 256 {
+			a, b := byte(a), byte(random.Intn(256))
+			if Inverse(a) != definedInverse(a) || Power(a, -1) != definedInverse(a) || Power(a, 2) != defined(a, a) {
+				t.Fatalf("%#x: %#x %#x %#x", a, Inverse(a), Power(a, -1), Power(a, 2))
+			}
+			if Sub(a) != substitution(a) || Unsub(Sub(a)) != a {
+				t.Fatalf("%#x: %#x %#x", a, Sub(a), Unsub(Sub(a)))
+			}
+			if Mul(a, b) != defined(a, b) || Dot([4]byte{a, b}, [4]byte{b, a}) != 0 {
+				t.Fatalf("%#x %#x: %#x", a, b, Mul(a, b))
+			}
 		}
 	}
 }
@@ -287,7 +326,7 @@ func TestArgumentsStay(t *testing.T) {
 	}
 }
 
-// Rules 7 and 8: whichever function is called first, and however many are at the same time, all of them find the tables.
+// Rules 7 and 8: whichever function is called first, and however many are at the same time, all of them have their results.
 func TestFirstAtTheSameTime(t *testing.T) {
 	calls := []func() bool{
 		func() bool { return Mul(0x57, 0x83) == 0xc1 },
