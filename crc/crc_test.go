@@ -503,13 +503,57 @@ func TestPartsStay(t *testing.T) {
 	}
 }
 
-// The table holds what each byte is after 8 steps, from the first checksum on.
+// P10.1: the table holds what each byte is after 8 steps, from the first 8 steps of a byte on.
 func TestTable(t *testing.T) {
 	made, table = sync.Once{}, [256]uint32{}
-	Sum()
+	Step(1, 8)
 	for i, x := range table {
 		if x != defined(uint32(i), 8) {
 			t.Errorf("%d: %#x", i, x)
+		}
+	}
+}
+
+// P10.1 to P10.4: functions compute all results, so that these are right whatever the table holds.
+func TestResultsWithoutTable(t *testing.T) {
+	defer func() { made = sync.Once{} }()
+	made.Do(func() {})
+	random := rand.New(rand.NewSource(1))
+	for i := range 20 {
+		table = [256]uint32{}
+		for k := range 256 * min(i, 1) {
+			table[k] = random.Uint32() >> (2 * i % 32)
+		}
+		if i == 1 {
+			for k := range 128 {
+				table[k] = defined(uint32(k)^1, 8) // those of other bytes
+			}
+		}
+		for x := range uint32(600) {
+			for n := 6; n <= 10; n++ {
+				if got := Step(x, n); got != defined(x, n) {
+					t.Fatalf("%d: %d %d: %#x", i, x, n, got)
+				}
+			}
+		}
+		for n := range 300 {
+			b := someBytes(n)
+			if Sum(b) != definedSum(b) || Update(Sum(b), b) != definedSum(b, b) || !bytes.Equal(Append(b), checked(b)) {
+				t.Fatalf("%d: %x: %#x %#x %x", i, b, Sum(b), Update(Sum(b), b), Append(b))
+			}
+			accept(t, checked(b), b, i)
+			refuse(t, append(b, 1, 2, 3, 4), i)
+		}
+	}
+}
+
+// P10.1: steps are undone, as a byte of the table is confirmed by that.
+func TestBack(t *testing.T) {
+	for _, x := range someNumbers() {
+		for n := range 70 {
+			if got := back(defined(x, n), n); got != x || defined(back(x, n), n) != x {
+				t.Fatalf("%#x %d: %#x", x, n, got)
+			}
 		}
 	}
 }
@@ -521,6 +565,7 @@ func TestFirstAtTheSameTime(t *testing.T) {
 		func() bool { return Sum(text[:4], text[4:]) == 0xe3069283 },
 		func() bool { return Update(0xe3069283, text) == 0xa86c53f4 },
 		func() bool { return Step(2, 2) == 0x82f63b78 },
+		func() bool { return Step(1, 8) == 0xf26b8303 && Step(255, 8) == 0xad7d5351 },
 		func() bool { return string(Append(text)) == "123456789\xe3\x06\x92\x83" },
 		func() bool { b, ok := Check([]byte("123456789\xe3\x06\x92\x83")); return ok && bytes.Equal(b, text) },
 		func() bool { b, ok := Check([]byte("123456788\xe3\x06\x92\x83")); return !ok && len(b) == 0 },
